@@ -1,30 +1,12 @@
 package tests
 
 import (
-	"iter"
 	"slices"
 	"strings"
 	"testing"
 
 	"loop.example/g00727/impl"
 )
-
-// textsOf goes through all strings of at most most bytes of letters.
-func textsOf(letters string, most int) iter.Seq[string] {
-	return func(yield func(string) bool) {
-		list := []string{""}
-		for len(list) > 0 {
-			s := list[0]
-			list = list[1:]
-			if !yield(s) {
-				return
-			}
-			for i := 0; i < len(letters) && len(s) < most; i++ {
-				list = append(list, s+letters[i:i+1])
-			}
-		}
-	}
-}
 
 func TestMaxText(t *testing.T) {
 	if impl.MaxText != 6000 {

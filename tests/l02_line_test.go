@@ -1,30 +1,12 @@
 package tests
 
 import (
-	"iter"
 	"slices"
 	"strings"
 	"testing"
 
 	"loop.example/g00727/impl"
 )
-
-// listsOf goes through all lists of at most most of the lines.
-func listsOf(lines []impl.Line, most int) iter.Seq[[]impl.Line] {
-	return func(yield func([]impl.Line) bool) {
-		lists := [][]impl.Line{nil}
-		for len(lists) > 0 {
-			list := lists[0]
-			lists = lists[1:]
-			if !yield(list) {
-				return
-			}
-			for i := 0; i < len(lines) && len(list) < most; i++ {
-				lists = append(lists, append(slices.Clone(list), lines[i]))
-			}
-		}
-	}
-}
 
 // linesOf makes lines of each Text and the End that follows it.
 func linesOf(parts ...string) []impl.Line {
