@@ -42,3 +42,9 @@ func textsOf(letters string, most int) iter.Seq[string] {
 	}
 	return joinsOf(parts, most)
 }
+
+func fill[T any](list []T, element T) {
+	for i := range list {
+		list[i] = element
+	}
+}
